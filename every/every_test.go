@@ -1,6 +1,9 @@
 package every
 
-import "testing"
+import (
+	"slices"
+	"testing"
+)
 
 func even(n int) bool {
 	return n%2 == 0
@@ -23,5 +26,25 @@ func TestIs(t *testing.T) {
 		if got := Is(c.list, even); got != c.want {
 			t.Errorf("Is(%v, even): %v", c.list, got)
 		}
+	}
+}
+
+func TestMade(t *testing.T) {
+	for _, c := range []struct {
+		list []int
+		want []bool
+	}{
+		{nil, nil},
+		{[]int{2}, []bool{true}},
+		{[]int{1, 2, 4, 5}, []bool{false, true, true, false}},
+	} {
+		if got := Made(c.list, even); !slices.Equal(got, c.want) {
+			t.Errorf("Made(%v, even): %v, not %v", c.list, got, c.want)
+		}
+	}
+	list := []int{1, 2}
+	Made(list, func(n int) int { return n })[0] = 9
+	if list[0] != 1 {
+		t.Errorf("Made told the list that it was given")
 	}
 }
